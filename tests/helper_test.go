@@ -103,6 +103,14 @@ func wantNumber(t *testing.T, what string, got int, ok bool, want int) {
 	}
 }
 
+// wantBool requires that a call succeeds and reports whether something is so.
+func wantBool(t *testing.T, what string, got bool, ok bool, want bool) {
+	t.Helper()
+	if !ok || got != want {
+		t.Errorf("%s: got %v %v, want %v true", what, got, ok, want)
+	}
+}
+
 func wantPart(t *testing.T, what string, num, den int, ok bool, wantNum, wantDen int) {
 	t.Helper()
 	if !ok || num != wantNum || den != wantDen {

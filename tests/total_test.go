@@ -3,7 +3,6 @@ package tests
 import (
 	"fmt"
 	"math"
-	"reflect"
 	"slices"
 	"testing"
 
@@ -44,16 +43,59 @@ func coatCalls() []anyCall {
 	}
 }
 
-// anyLists are exchanges and lists that are none.
+// giftCalls are the calls of all functions of chapter 2.
+func giftCalls() []anyCall {
+	return []anyCall{
+		{"AreFamilies", func(a, b []int, i, j int, s string) []any { return results(impl.AreFamilies(a)) }},
+		{"FamilySizes", func(a, b []int, i, j int, s string) []any { return results(impl.FamilySizes(a)) }},
+		{"IsGiving", func(a, b []int, i, j int, s string) []any { return results(impl.IsGiving(a, b)) }},
+		{"CanGive", func(a, b []int, i, j int, s string) []any { return results(impl.CanGive(a)) }},
+		{"CountGivings", func(a, b []int, i, j int, s string) []any { return results(impl.CountGivings(a)) }},
+		{"FirstGiving", func(a, b []int, i, j int, s string) []any { return results(impl.FirstGiving(a)) }},
+		{"NextGiving", func(a, b []int, i, j int, s string) []any { return results(impl.NextGiving(a, b)) }},
+		{"GivingOfRank", func(a, b []int, i, j int, s string) []any { return results(impl.GivingOfRank(a, i)) }},
+		{"RankOfGiving", func(a, b []int, i, j int, s string) []any { return results(impl.RankOfGiving(a, b)) }},
+		{"CountRings", func(a, b []int, i, j int, s string) []any { return results(impl.CountRings(a)) }},
+		{"FirstRing", func(a, b []int, i, j int, s string) []any { return results(impl.FirstRing(a)) }},
+		{"CountMutual", func(a, b []int, i, j int, s string) []any { return results(impl.CountMutual(a)) }},
+		{"GiftsBetween", func(a, b []int, i, j int, s string) []any { return results(impl.GiftsBetween(a, b)) }},
+		{"JoinFamilies", func(a, b []int, i, j int, s string) []any { return results(impl.JoinFamilies(a, i, j)) }},
+		{"LeaveFamily", func(a, b []int, i, j int, s string) []any { return results(impl.LeaveFamily(a, i)) }},
+		{"FamiliesText", func(a, b []int, i, j int, s string) []any { return results(impl.FamiliesText(a)) }},
+		{"ParseFamilies", func(a, b []int, i, j int, s string) []any { return results(impl.ParseFamilies(s)) }},
+	}
+}
+
+func allCalls() []anyCall {
+	return slices.Concat(coatCalls(), giftCalls())
+}
+
+// twoLists are what a call gets as its first list and as its second one.
+type twoLists struct{ a, b []int }
+
+// anyTwoLists are each list twice, and families with exchanges of as many guests, givings among them.
+func anyTwoLists() []twoLists {
+	var both []twoLists
+	for _, list := range anyLists() {
+		both = append(both, twoLists{list, list})
+	}
+	return append(both, twoLists{[]int{0}, []int{0}}, twoLists{[]int{0, 1}, []int{1, 0}}, twoLists{[]int{0, 0, 1, 1}, []int{2, 3, 0, 1}},
+		twoLists{[]int{0, 0, 1, 1}, []int{3, 2, 1, 0}}, twoLists{[]int{0, 0, 1, 1}, []int{1, 2, 0, 3}}, twoLists{[]int{0, 0, 1, 2, 1}, []int{2, 3, 4, 0, 1}},
+		twoLists{[]int{0, 1, 2, 0, 1, 2, 0, 1, 2}, []int{1, 2, 3, 4, 5, 6, 7, 8, 0}}, twoLists{inOrder(9), []int{8, 7, 6, 5, 3, 4, 2, 1, 0}})
+}
+
+// anyLists are exchanges and families, and lists that are neither.
 func anyLists() [][]int {
-	return append(slices.Clone(noExchanges), []int{0}, []int{0, 1}, []int{1, 0}, []int{1, 2, 0}, []int{1, 2, 0, 3}, []int{3, 2, 1, 0},
-		longChains, inOrder(12), backwards(12), []int{1, 0, 3, 2, 5, 4, 7, 6, 9, 8, 11, 10})
+	return append(slices.Concat(noExchanges, noFamilies), []int{0}, []int{0, 1}, []int{1, 0}, []int{1, 2, 0}, []int{1, 2, 0, 3}, []int{3, 2, 1, 0},
+		longChains, inOrder(12), backwards(12), []int{1, 0, 3, 2, 5, 4, 7, 6, 9, 8, 11, 10},
+		[]int{0, 0, 1, 1}, []int{0, 0, 1}, []int{0, 1, 0, 2, 1}, []int{0, 0, 0, 0, 1, 1, 1, 1}, inOrder(9), make([]int, 9))
 }
 
 var anyNumbers = []int{0, 1, 2, 3, 4, 8, 11, 12, 13, 44, 176214840, 176214841, -1, -12, 1 << 31, 1 << 32, math.MaxInt, math.MinInt, math.MaxInt - 1}
 
 func anyTexts() []string {
-	return append(slices.Clone(noTexts), "0", "1,0", "1,2,0,3", textOf(longChains), textOf(backwards(12)))
+	return append(slices.Concat(noTexts, noFamilyTexts), "0", "1,0", "1,2,0,3", textOf(longChains), textOf(backwards(12)),
+		"01", "0011", "012345678", "000000000")
 }
 
 // tryCall makes a call and tells of a panic.
@@ -76,9 +118,9 @@ func mustBeZero(t *testing.T, name string, got []any) {
 }
 
 func TestNoCallPanics(t *testing.T) {
-	for _, c := range coatCalls() {
+	for _, c := range allCalls() {
 		for _, list := range anyLists() {
-			for _, other := range [][]int{nil, {0}, {1, 2, 0, 3}, inOrder(12), inOrder(13), list} {
+			for _, other := range [][]int{nil, {0}, {1, 0}, {1, 2, 0, 3}, {3, 2, 1, 0}, backwards(9), inOrder(12), inOrder(13), list} {
 				mustBeZero(t, c.name, tryCall(t, c, list, other, 0, 0, ""))
 			}
 			for _, i := range anyNumbers {
@@ -106,15 +148,8 @@ func roomy(list []int, behind int) (part []int, whole []int) {
 
 // overwrite writes into all the memory of a result, that behind its length too.
 func overwrite(got []any) {
-	for _, r := range got {
-		switch x := r.(type) {
-		case []int:
-			fill(x)
-		case [][]int:
-			for _, inner := range x {
-				fill(inner)
-			}
-		}
+	for _, list := range slicesOf(got) {
+		fill(list)
 	}
 }
 
@@ -127,19 +162,19 @@ func fill(list []int) {
 
 // TestCallsKeepArguments looks at the arguments and the memory behind them, behind each call and behind writing into its results.
 func TestCallsKeepArguments(t *testing.T) {
-	for _, c := range coatCalls() {
-		for _, list := range anyLists() {
+	for _, c := range allCalls() {
+		for _, lists := range anyTwoLists() {
 			for _, numbers := range [][]int{{0, 1}, {4, 2}, {12, 5}} {
-				a, wholeA := roomy(list, 40)
-				b, wholeB := roomy(list, 50)
+				a, wholeA := roomy(lists.a, 40)
+				b, wholeB := roomy(lists.b, 50)
 				beforeA, beforeB := slices.Clone(wholeA), slices.Clone(wholeB)
 				got := c.call(a, b, numbers[0], numbers[1], "1,2,0,3")
 				if !slices.Equal(wholeA, beforeA) || !slices.Equal(wholeB, beforeB) {
-					t.Errorf("%s writes into %v", c.name, list)
+					t.Errorf("%s writes into %v", c.name, lists)
 				}
 				overwrite(got)
 				if !slices.Equal(wholeA, beforeA) || !slices.Equal(wholeB, beforeB) {
-					t.Errorf("%s gives out memory of %v", c.name, list)
+					t.Errorf("%s gives out memory of %v", c.name, lists)
 				}
 			}
 		}
@@ -148,18 +183,17 @@ func TestCallsKeepArguments(t *testing.T) {
 
 // TestCallsDependOnArgumentsAlone makes each call with other memory behind the lists, and once more after its results were written over.
 func TestCallsDependOnArgumentsAlone(t *testing.T) {
-	for _, c := range coatCalls() {
-		for _, list := range anyLists() {
-			for _, behind := range []int{0, len(list), 90} {
-				a, _ := roomy(list, behind)
-				b, _ := roomy(list, behind)
-				clipped := slices.Clip(slices.Clone(list))
-				want := c.call(clipped, clipped, 4, 2, "1,2,0,3")
+	for _, c := range allCalls() {
+		for _, lists := range anyTwoLists() {
+			for _, behind := range []int{0, len(lists.a), 90} {
+				a, _ := roomy(lists.a, behind)
+				b, _ := roomy(lists.b, behind)
+				want := c.call(slices.Clip(slices.Clone(lists.a)), slices.Clip(slices.Clone(lists.b)), 1, 2, "1,2,0,3")
 				text := fmt.Sprint(want)
 				overwrite(want)
-				got := c.call(a, b, 4, 2, "1,2,0,3")
+				got := c.call(a, b, 1, 2, "1,2,0,3")
 				if fmt.Sprint(got) != text {
-					t.Errorf("%s of %v: first %s, then %v", c.name, list, text, got)
+					t.Errorf("%s of %v: first %s, then %v", c.name, lists, text, got)
 				}
 			}
 		}
@@ -168,30 +202,44 @@ func TestCallsDependOnArgumentsAlone(t *testing.T) {
 
 // TestResultsShareNoMemory writes over one slice of a result and looks at the others.
 func TestResultsShareNoMemory(t *testing.T) {
-	for _, list := range anyLists() {
-		for _, tell := range []func([]int) ([][]int, bool){impl.ChainsOf, impl.FirstSwaps} {
-			lists, ok := tell(list)
-			if !ok {
-				continue
-			}
-			for k := range lists {
-				again, _ := tell(list)
+	for _, c := range allCalls() {
+		for _, lists := range anyTwoLists() {
+			want := slicesOf(c.call(lists.a, lists.b, 1, 2, "1,2,0,3"))
+			for k := range want {
+				again := slicesOf(c.call(lists.a, lists.b, 1, 2, "1,2,0,3"))
 				fill(again[k])
-				if !reflect.DeepEqual(slices.Delete(again, k, k+1), slices.Delete(slices.Clone(lists), k, k+1)) {
-					t.Errorf("results of %v share memory", list)
+				again[k] = want[k]
+				if !equalLists(again, want) {
+					t.Errorf("slices of the result of %s of %v share memory", c.name, lists)
 				}
 			}
 		}
 	}
 }
 
+// slicesOf returns all lists of numbers that are in a result.
+func slicesOf(got []any) [][]int {
+	var all [][]int
+	for _, r := range got {
+		switch x := r.(type) {
+		case []int:
+			all = append(all, x)
+		case [][]int:
+			all = append(all, x...)
+		}
+	}
+	return all
+}
+
+// TestTextsStay writes over what was read from a text and reads it again.
 func TestTextsStay(t *testing.T) {
-	bytes := []byte("1,2,0,3")
-	text := string(bytes)
-	list, ok := impl.ParseExchange(text)
-	fill(list)
-	again, fine := impl.ParseExchange(text)
-	if !ok || !fine || text != "1,2,0,3" || !slices.Equal(again, []int{1, 2, 0, 3}) {
-		t.Error("ParseExchange keeps", again)
+	for text, read := range map[string]func(string) ([]int, bool){"1,2,0,3": impl.ParseExchange, "0012": impl.ParseFamilies} {
+		list, ok := read(text)
+		want := slices.Clone(list)
+		fill(list)
+		again, fine := read(text)
+		if !ok || !fine || !slices.Equal(again, want) {
+			t.Errorf("%q is read as %v, then %v", text, want, again)
+		}
 	}
 }
