@@ -150,8 +150,7 @@ func CountOwn(guests int, own int) (int, bool) {
 		return 0, false
 	}
 	others := guests - own
-	choices := factorial(guests) / (factorial(own) * factorial(others))
-	return choices * countApart(others, others), true
+	return countChoices(guests, own) * countApart(others, others), true
 }
 
 // ChanceNone returns numerator and denominator, in lowest terms, of the part of all exchanges in which nobody does:
@@ -395,6 +394,11 @@ func factorial(n int) int {
 		product *= i
 	}
 	return product
+}
+
+// countChoices returns in how many ways some of all can be chosen.
+func countChoices(all int, some int) int {
+	return factorial(all) / (factorial(some) * factorial(all-some))
 }
 
 // commonDivisor returns the greatest common divisor of two numbers that are not both 0.

@@ -66,22 +66,55 @@ func giftCalls() []anyCall {
 	}
 }
 
-func allCalls() []anyCall {
-	return slices.Concat(coatCalls(), giftCalls())
+// boardCalls are the calls of all functions of chapter 3.
+func boardCalls() []anyCall {
+	return []anyCall{
+		{"IsBoard", func(a, b []int, i, j int, s string) []any { return results(impl.IsBoard(s)) }},
+		{"SideOf", func(a, b []int, i, j int, s string) []any { return results(impl.SideOf(s)) }},
+		{"ForbiddenOf", func(a, b []int, i, j int, s string) []any { return results(impl.ForbiddenOf(s)) }},
+		{"IsAllowed", func(a, b []int, i, j int, s string) []any { return results(impl.IsAllowed(s, a)) }},
+		{"HitsOf", func(a, b []int, i, j int, s string) []any { return results(impl.HitsOf(s, a)) }},
+		{"RookNumbers", func(a, b []int, i, j int, s string) []any { return results(impl.RookNumbers(s)) }},
+		{"HitNumbers", func(a, b []int, i, j int, s string) []any { return results(impl.HitNumbers(s)) }},
+		{"CountAllowed", func(a, b []int, i, j int, s string) []any { return results(impl.CountAllowed(s)) }},
+		{"FirstAllowed", func(a, b []int, i, j int, s string) []any { return results(impl.FirstAllowed(s)) }},
+		{"NextAllowed", func(a, b []int, i, j int, s string) []any { return results(impl.NextAllowed(s, a)) }},
+		{"MostRooks", func(a, b []int, i, j int, s string) []any { return results(impl.MostRooks(s)) }},
+		{"FewestLines", func(a, b []int, i, j int, s string) []any { return results(impl.FewestLines(s)) }},
+		{"OtherBoard", func(a, b []int, i, j int, s string) []any { return results(impl.OtherBoard(s)) }},
+		{"TurnedBoard", func(a, b []int, i, j int, s string) []any { return results(impl.TurnedBoard(s)) }},
+		{"JoinBoards", func(a, b []int, i, j int, s string) []any { return results(impl.JoinBoards(s, s)) }},
+		{"OwnBoard", func(a, b []int, i, j int, s string) []any { return results(impl.OwnBoard(i)) }},
+		{"CoupleBoard", func(a, b []int, i, j int, s string) []any { return results(impl.CoupleBoard(i)) }},
+		{"ForbidPlace", func(a, b []int, i, j int, s string) []any { return results(impl.ForbidPlace(s, i, j)) }},
+		{"AllowPlace", func(a, b []int, i, j int, s string) []any { return results(impl.AllowPlace(s, i, j)) }},
+	}
 }
 
-// twoLists are what a call gets as its first list and as its second one.
-type twoLists struct{ a, b []int }
+func allCalls() []anyCall {
+	return slices.Concat(coatCalls(), giftCalls(), boardCalls())
+}
 
-// anyTwoLists are each list twice, and families with exchanges of as many guests, givings among them.
-func anyTwoLists() []twoLists {
-	var both []twoLists
+// listsAndText are what a call gets as its first list, as its second one and as its text.
+type listsAndText struct {
+	a, b []int
+	s    string
+}
+
+// anyListsAndTexts are each list twice, families with exchanges of as many guests, givings among them, and boards with exchanges.
+func anyListsAndTexts() []listsAndText {
+	const text = "1,2,0,3"
+	var all []listsAndText
 	for _, list := range anyLists() {
-		both = append(both, twoLists{list, list})
+		all = append(all, listsAndText{list, list, text})
 	}
-	return append(both, twoLists{[]int{0}, []int{0}}, twoLists{[]int{0, 1}, []int{1, 0}}, twoLists{[]int{0, 0, 1, 1}, []int{2, 3, 0, 1}},
-		twoLists{[]int{0, 0, 1, 1}, []int{3, 2, 1, 0}}, twoLists{[]int{0, 0, 1, 1}, []int{1, 2, 0, 3}}, twoLists{[]int{0, 0, 1, 2, 1}, []int{2, 3, 4, 0, 1}},
-		twoLists{[]int{0, 1, 2, 0, 1, 2, 0, 1, 2}, []int{1, 2, 3, 4, 5, 6, 7, 8, 0}}, twoLists{inOrder(9), []int{8, 7, 6, 5, 3, 4, 2, 1, 0}})
+	all = append(all, listsAndText{[]int{0}, []int{0}, text}, listsAndText{[]int{0, 1}, []int{1, 0}, text}, listsAndText{[]int{0, 0, 1, 1}, []int{2, 3, 0, 1}, text},
+		listsAndText{[]int{0, 0, 1, 1}, []int{3, 2, 1, 0}, text}, listsAndText{[]int{0, 0, 1, 1}, []int{1, 2, 0, 3}, text}, listsAndText{[]int{0, 0, 1, 2, 1}, []int{2, 3, 4, 0, 1}, text},
+		listsAndText{[]int{0, 1, 2, 0, 1, 2, 0, 1, 2}, []int{1, 2, 3, 4, 5, 6, 7, 8, 0}, text}, listsAndText{inOrder(9), []int{8, 7, 6, 5, 3, 4, 2, 1, 0}, text})
+	for _, b := range greaterBoards(1, 2, 3, 4, 8) {
+		all = append(all, listsAndText{inOrder(sideOf(b)), nil, b}, listsAndText{backwards(sideOf(b)), nil, b})
+	}
+	return append(all, listsAndText{[]int{1, 0, 2}, nil, "##./.##/#.#"}, listsAndText{[]int{2, 0, 1}, nil, "##./.##/#.#"}, listsAndText{[]int{1, 0}, nil, "##./.##/#.#"})
 }
 
 // anyLists are exchanges and families, and lists that are neither.
@@ -94,7 +127,7 @@ func anyLists() [][]int {
 var anyNumbers = []int{0, 1, 2, 3, 4, 8, 11, 12, 13, 44, 176214840, 176214841, -1, -12, 1 << 31, 1 << 32, math.MaxInt, math.MinInt, math.MaxInt - 1}
 
 func anyTexts() []string {
-	return append(slices.Concat(noTexts, noFamilyTexts), "0", "1,0", "1,2,0,3", textOf(longChains), textOf(backwards(12)),
+	return append(slices.Concat(noTexts, noFamilyTexts, noBoards(), greaterBoards(1, 2, 3, 8)), "0", "1,0", "1,2,0,3", textOf(longChains), textOf(backwards(12)),
 		"01", "0011", "012345678", "000000000")
 }
 
@@ -135,6 +168,22 @@ func TestNoCallPanics(t *testing.T) {
 	}
 }
 
+func TestNoBoardCallPanics(t *testing.T) {
+	numbers := []int{0, 1, 7, 8, 9, -1, 1 << 32, math.MaxInt, math.MinInt}
+	for _, c := range boardCalls() {
+		for _, text := range append(noBoards(), greaterBoards(1, 2, 3, 4, 8)...) {
+			for _, list := range anyLists() {
+				mustBeZero(t, c.name, tryCall(t, c, list, nil, 0, 0, text))
+			}
+			for _, i := range numbers {
+				for _, j := range numbers {
+					mustBeZero(t, c.name, tryCall(t, c, nil, nil, i, j, text))
+				}
+			}
+		}
+	}
+}
+
 const spare = 5
 
 // roomy returns a list at the beginning of an array with room behind it, and this array.
@@ -163,18 +212,18 @@ func fill(list []int) {
 // TestCallsKeepArguments looks at the arguments and the memory behind them, behind each call and behind writing into its results.
 func TestCallsKeepArguments(t *testing.T) {
 	for _, c := range allCalls() {
-		for _, lists := range anyTwoLists() {
+		for _, given := range anyListsAndTexts() {
 			for _, numbers := range [][]int{{0, 1}, {4, 2}, {12, 5}} {
-				a, wholeA := roomy(lists.a, 40)
-				b, wholeB := roomy(lists.b, 50)
+				a, wholeA := roomy(given.a, 40)
+				b, wholeB := roomy(given.b, 50)
 				beforeA, beforeB := slices.Clone(wholeA), slices.Clone(wholeB)
-				got := c.call(a, b, numbers[0], numbers[1], "1,2,0,3")
+				got := c.call(a, b, numbers[0], numbers[1], given.s)
 				if !slices.Equal(wholeA, beforeA) || !slices.Equal(wholeB, beforeB) {
-					t.Errorf("%s writes into %v", c.name, lists)
+					t.Errorf("%s writes into %v", c.name, given)
 				}
 				overwrite(got)
 				if !slices.Equal(wholeA, beforeA) || !slices.Equal(wholeB, beforeB) {
-					t.Errorf("%s gives out memory of %v", c.name, lists)
+					t.Errorf("%s gives out memory of %v", c.name, given)
 				}
 			}
 		}
@@ -184,16 +233,16 @@ func TestCallsKeepArguments(t *testing.T) {
 // TestCallsDependOnArgumentsAlone makes each call with other memory behind the lists, and once more after its results were written over.
 func TestCallsDependOnArgumentsAlone(t *testing.T) {
 	for _, c := range allCalls() {
-		for _, lists := range anyTwoLists() {
-			for _, behind := range []int{0, len(lists.a), 90} {
-				a, _ := roomy(lists.a, behind)
-				b, _ := roomy(lists.b, behind)
-				want := c.call(slices.Clip(slices.Clone(lists.a)), slices.Clip(slices.Clone(lists.b)), 1, 2, "1,2,0,3")
+		for _, given := range anyListsAndTexts() {
+			for _, behind := range []int{0, len(given.a), 90} {
+				a, _ := roomy(given.a, behind)
+				b, _ := roomy(given.b, behind)
+				want := c.call(slices.Clip(slices.Clone(given.a)), slices.Clip(slices.Clone(given.b)), 1, 2, given.s)
 				text := fmt.Sprint(want)
 				overwrite(want)
-				got := c.call(a, b, 1, 2, "1,2,0,3")
+				got := c.call(a, b, 1, 2, given.s)
 				if fmt.Sprint(got) != text {
-					t.Errorf("%s of %v: first %s, then %v", c.name, lists, text, got)
+					t.Errorf("%s of %v: first %s, then %v", c.name, given, text, got)
 				}
 			}
 		}
@@ -203,14 +252,14 @@ func TestCallsDependOnArgumentsAlone(t *testing.T) {
 // TestResultsShareNoMemory writes over one slice of a result and looks at the others.
 func TestResultsShareNoMemory(t *testing.T) {
 	for _, c := range allCalls() {
-		for _, lists := range anyTwoLists() {
-			want := slicesOf(c.call(lists.a, lists.b, 1, 2, "1,2,0,3"))
+		for _, given := range anyListsAndTexts() {
+			want := slicesOf(c.call(given.a, given.b, 1, 2, given.s))
 			for k := range want {
-				again := slicesOf(c.call(lists.a, lists.b, 1, 2, "1,2,0,3"))
+				again := slicesOf(c.call(given.a, given.b, 1, 2, given.s))
 				fill(again[k])
 				again[k] = want[k]
 				if !equalLists(again, want) {
-					t.Errorf("slices of the result of %s of %v share memory", c.name, lists)
+					t.Errorf("slices of the result of %s of %v share memory", c.name, given)
 				}
 			}
 		}
