@@ -91,8 +91,31 @@ func boardCalls() []anyCall {
 	}
 }
 
+// tableCalls are the calls of all functions of chapter 4.
+func tableCalls() []anyCall {
+	return []anyCall{
+		{"IsTable", func(a, b []int, i, j int, s string) []any { return results(impl.IsTable(a)) }},
+		{"CouplesTogether", func(a, b []int, i, j int, s string) []any { return results(impl.CouplesTogether(a)) }},
+		{"CouplesInRow", func(a, b []int, i, j int, s string) []any { return results(impl.CouplesInRow(a)) }},
+		{"CountRound", func(a, b []int, i, j int, s string) []any { return results(impl.CountRound(i)) }},
+		{"CountTogether", func(a, b []int, i, j int, s string) []any { return results(impl.CountTogether(i, j)) }},
+		{"CountInRow", func(a, b []int, i, j int, s string) []any { return results(impl.CountInRow(i, j)) }},
+		{"ChanceApart", func(a, b []int, i, j int, s string) []any { return results(impl.ChanceApart(i)) }},
+		{"IsInTurn", func(a, b []int, i, j int, s string) []any { return results(impl.IsInTurn(a)) }},
+		{"CountInTurn", func(a, b []int, i, j int, s string) []any { return results(impl.CountInTurn(i)) }},
+		{"CountTurnTogether", func(a, b []int, i, j int, s string) []any { return results(impl.CountTurnTogether(i, j)) }},
+		{"FirstApart", func(a, b []int, i, j int, s string) []any { return results(impl.FirstApart(i)) }},
+		{"NextApart", func(a, b []int, i, j int, s string) []any { return results(impl.NextApart(a)) }},
+		{"TurnTable", func(a, b []int, i, j int, s string) []any { return results(impl.TurnTable(a, i)) }},
+		{"MirrorTable", func(a, b []int, i, j int, s string) []any { return results(impl.MirrorTable(a)) }},
+		{"FirstTable", func(a, b []int, i, j int, s string) []any { return results(impl.FirstTable(a)) }},
+		{"NeighboursOf", func(a, b []int, i, j int, s string) []any { return results(impl.NeighboursOf(a, i)) }},
+		{"SwapsToPart", func(a, b []int, i, j int, s string) []any { return results(impl.SwapsToPart(a)) }},
+	}
+}
+
 func allCalls() []anyCall {
-	return slices.Concat(coatCalls(), giftCalls(), boardCalls())
+	return slices.Concat(coatCalls(), giftCalls(), boardCalls(), tableCalls())
 }
 
 // listsAndText are what a call gets as its first list, as its second one and as its text.
@@ -117,14 +140,15 @@ func anyListsAndTexts() []listsAndText {
 	return append(all, listsAndText{[]int{1, 0, 2}, nil, "##./.##/#.#"}, listsAndText{[]int{2, 0, 1}, nil, "##./.##/#.#"}, listsAndText{[]int{1, 0}, nil, "##./.##/#.#"})
 }
 
-// anyLists are exchanges and families, and lists that are neither.
+// anyLists are exchanges, families and tables, and lists that are none of these.
 func anyLists() [][]int {
-	return append(slices.Concat(noExchanges, noFamilies), []int{0}, []int{0, 1}, []int{1, 0}, []int{1, 2, 0}, []int{1, 2, 0, 3}, []int{3, 2, 1, 0},
+	return append(slices.Concat(noExchanges, noFamilies, noTables(), longTables), []int{0}, []int{0, 1}, []int{1, 0}, []int{1, 2, 0}, []int{1, 2, 0, 3}, []int{3, 2, 1, 0},
 		longChains, inOrder(12), backwards(12), []int{1, 0, 3, 2, 5, 4, 7, 6, 9, 8, 11, 10},
-		[]int{0, 0, 1, 1}, []int{0, 0, 1}, []int{0, 1, 0, 2, 1}, []int{0, 0, 0, 0, 1, 1, 1, 1}, inOrder(9), make([]int, 9))
+		[]int{0, 0, 1, 1}, []int{0, 0, 1}, []int{0, 1, 0, 2, 1}, []int{0, 0, 0, 0, 1, 1, 1, 1}, inOrder(9), make([]int, 9),
+		[]int{0, 2, 1, 3}, []int{0, 2, 1, 4, 3, 5}, []int{5, 2, 0, 1, 3, 4}, inOrder(8), []int{0, 2, 1, 3, 4, 6, 5, 7}, []int{7, 5, 3, 1, 0, 2, 4, 6}, inOrder(10))
 }
 
-var anyNumbers = []int{0, 1, 2, 3, 4, 8, 11, 12, 13, 44, 176214840, 176214841, -1, -12, 1 << 31, 1 << 32, math.MaxInt, math.MinInt, math.MaxInt - 1}
+var anyNumbers = []int{0, 1, 2, 3, 4, 7, 8, 11, 12, 13, 44, 176214840, 176214841, -1, -12, 1 << 31, 1 << 32, math.MaxInt, math.MinInt, math.MaxInt - 1}
 
 func anyTexts() []string {
 	return append(slices.Concat(noTexts, noFamilyTexts, noBoards(), greaterBoards(1, 2, 3, 8)), "0", "1,0", "1,2,0,3", textOf(longChains), textOf(backwards(12)),
@@ -213,7 +237,7 @@ func fill(list []int) {
 func TestCallsKeepArguments(t *testing.T) {
 	for _, c := range allCalls() {
 		for _, given := range anyListsAndTexts() {
-			for _, numbers := range [][]int{{0, 1}, {4, 2}, {12, 5}} {
+			for _, numbers := range [][]int{{0, 1}, {4, 2}, {7, 3}, {12, 5}} {
 				a, wholeA := roomy(given.a, 40)
 				b, wholeB := roomy(given.b, 50)
 				beforeA, beforeB := slices.Clone(wholeA), slices.Clone(wholeB)
