@@ -26,6 +26,12 @@ type rack struct {
 	taken  [MaxGuests]bool
 }
 
+// fraction is a fraction in lowest terms, as chances and means are told.
+type fraction struct {
+	numerator   int
+	denominator int
+}
+
 // IsExchange reports whether a list of any numbers is an exchange.
 func IsExchange(list []int) bool {
 	if !isGuestCount(len(list)) {
@@ -159,9 +165,7 @@ func ChanceNone(guests int) (int, int, bool) {
 	if !isGuestCount(guests) {
 		return 0, 0, false
 	}
-	none, all := countApart(guests, guests), factorial(guests)
-	common := commonDivisor(none, all)
-	return none / common, all / common, true
+	return partOf(countApart(guests, guests), factorial(guests)).told()
 }
 
 // FirstNone returns the first one of these exchanges. It fails if there is none.
@@ -407,4 +411,20 @@ func commonDivisor(a int, b int) int {
 		a, b = b, a%b
 	}
 	return a
+}
+
+// partOf returns the part that some are of all, of which there is at least one.
+func partOf(some int, all int) fraction {
+	common := commonDivisor(some, all)
+	return fraction{numerator: some / common, denominator: all / common}
+}
+
+// plus returns the sum of two fractions.
+func (f fraction) plus(g fraction) fraction {
+	return partOf(f.numerator*g.denominator+g.numerator*f.denominator, f.denominator*g.denominator)
+}
+
+// told returns numerator and denominator of a fraction, as a call that succeeds tells it.
+func (f fraction) told() (int, int, bool) {
+	return f.numerator, f.denominator, true
 }

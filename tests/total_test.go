@@ -114,8 +114,26 @@ func tableCalls() []anyCall {
 	}
 }
 
+// seatCalls are the calls of all functions of chapter 5.
+func seatCalls() []anyCall {
+	return []anyCall{
+		{"CanSeat", func(a, b []int, i, j int, s string) []any { return results(impl.CanSeat(i, a)) }},
+		{"CountSeatings", func(a, b []int, i, j int, s string) []any { return results(impl.CountSeatings(i, j)) }},
+		{"AllSeatings", func(a, b []int, i, j int, s string) []any { return results(impl.AllSeatings(i, j)) }},
+		{"ChanceOfSeating", func(a, b []int, i, j int, s string) []any { return results(impl.ChanceOfSeating(i, a)) }},
+		{"ChanceOwnSeat", func(a, b []int, i, j int, s string) []any { return results(impl.ChanceOwnSeat(i, j, j)) }},
+		{"MeanOwnSeats", func(a, b []int, i, j int, s string) []any { return results(impl.MeanOwnSeats(i, j)) }},
+		{"DisplacedIn", func(a, b []int, i, j int, s string) []any { return results(impl.DisplacedIn(a)) }},
+		{"CountDisplaced", func(a, b []int, i, j int, s string) []any { return results(impl.CountDisplaced(i, j, j)) }},
+		{"ChanceDisplaced", func(a, b []int, i, j int, s string) []any { return results(impl.ChanceDisplaced(i, j, j)) }},
+		{"SeatBy", func(a, b []int, i, j int, s string) []any { return results(impl.SeatBy(i, j, a)) }},
+		{"ChoicesOf", func(a, b []int, i, j int, s string) []any { return results(impl.ChoicesOf(i, a)) }},
+		{"LikeliestSeatings", func(a, b []int, i, j int, s string) []any { return results(impl.LikeliestSeatings(i, j)) }},
+	}
+}
+
 func allCalls() []anyCall {
-	return slices.Concat(coatCalls(), giftCalls(), boardCalls(), tableCalls())
+	return slices.Concat(coatCalls(), giftCalls(), boardCalls(), tableCalls(), seatCalls())
 }
 
 // listsAndText are what a call gets as its first list, as its second one and as its text.
@@ -145,7 +163,8 @@ func anyLists() [][]int {
 	return append(slices.Concat(noExchanges, noFamilies, noTables(), longTables), []int{0}, []int{0, 1}, []int{1, 0}, []int{1, 2, 0}, []int{1, 2, 0, 3}, []int{3, 2, 1, 0},
 		longChains, inOrder(12), backwards(12), []int{1, 0, 3, 2, 5, 4, 7, 6, 9, 8, 11, 10},
 		[]int{0, 0, 1, 1}, []int{0, 0, 1}, []int{0, 1, 0, 2, 1}, []int{0, 0, 0, 0, 1, 1, 1, 1}, inOrder(9), make([]int, 9),
-		[]int{0, 2, 1, 3}, []int{0, 2, 1, 4, 3, 5}, []int{5, 2, 0, 1, 3, 4}, inOrder(8), []int{0, 2, 1, 3, 4, 6, 5, 7}, []int{7, 5, 3, 1, 0, 2, 4, 6}, inOrder(10))
+		[]int{0, 2, 1, 3}, []int{0, 2, 1, 4, 3, 5}, []int{5, 2, 0, 1, 3, 4}, inOrder(8), []int{0, 2, 1, 3, 4, 6, 5, 7}, []int{7, 5, 3, 1, 0, 2, 4, 6}, inOrder(10),
+		[]int{3, 0, 0}, []int{6, 5, 4, 0})
 }
 
 var anyNumbers = []int{0, 1, 2, 3, 4, 7, 8, 11, 12, 13, 44, 176214840, 176214841, -1, -12, 1 << 31, 1 << 32, math.MaxInt, math.MinInt, math.MaxInt - 1}
@@ -208,6 +227,26 @@ func TestNoBoardCallPanics(t *testing.T) {
 	}
 }
 
+// TestNoCallOfThreeNumbersPanics has functions that take one number more than other calls.
+func TestNoCallOfThreeNumbersPanics(t *testing.T) {
+	for _, k := range anyNumbers {
+		for _, c := range []anyCall{
+			{"ChanceOwnSeat", func(a, b []int, i, j int, s string) []any { return results(impl.ChanceOwnSeat(i, j, k)) }},
+			{"CountDisplaced", func(a, b []int, i, j int, s string) []any { return results(impl.CountDisplaced(i, j, k)) }},
+			{"ChanceDisplaced", func(a, b []int, i, j int, s string) []any { return results(impl.ChanceDisplaced(i, j, k)) }},
+		} {
+			for _, i := range anyNumbers {
+				for _, j := range anyNumbers {
+					mustBeZero(t, c.name, tryCall(t, c, nil, nil, i, j, ""))
+				}
+			}
+		}
+	}
+}
+
+// fewNumbers are pairs of numbers for calls; by the second one there are seatings, of four guests with two lost tickets.
+var fewNumbers = [][2]int{{1, 2}, {4, 2}}
+
 const spare = 5
 
 // roomy returns a list at the beginning of an array with room behind it, and this array.
@@ -258,15 +297,17 @@ func TestCallsKeepArguments(t *testing.T) {
 func TestCallsDependOnArgumentsAlone(t *testing.T) {
 	for _, c := range allCalls() {
 		for _, given := range anyListsAndTexts() {
-			for _, behind := range []int{0, len(given.a), 90} {
-				a, _ := roomy(given.a, behind)
-				b, _ := roomy(given.b, behind)
-				want := c.call(slices.Clip(slices.Clone(given.a)), slices.Clip(slices.Clone(given.b)), 1, 2, given.s)
-				text := fmt.Sprint(want)
-				overwrite(want)
-				got := c.call(a, b, 1, 2, given.s)
-				if fmt.Sprint(got) != text {
-					t.Errorf("%s of %v: first %s, then %v", c.name, given, text, got)
+			for _, numbers := range fewNumbers {
+				for _, behind := range []int{0, len(given.a), 90} {
+					a, _ := roomy(given.a, behind)
+					b, _ := roomy(given.b, behind)
+					want := c.call(slices.Clip(slices.Clone(given.a)), slices.Clip(slices.Clone(given.b)), numbers[0], numbers[1], given.s)
+					text := fmt.Sprint(want)
+					overwrite(want)
+					got := c.call(a, b, numbers[0], numbers[1], given.s)
+					if fmt.Sprint(got) != text {
+						t.Errorf("%s of %v %v: first %s, then %v", c.name, given, numbers, text, got)
+					}
 				}
 			}
 		}
@@ -277,13 +318,15 @@ func TestCallsDependOnArgumentsAlone(t *testing.T) {
 func TestResultsShareNoMemory(t *testing.T) {
 	for _, c := range allCalls() {
 		for _, given := range anyListsAndTexts() {
-			want := slicesOf(c.call(given.a, given.b, 1, 2, given.s))
-			for k := range want {
-				again := slicesOf(c.call(given.a, given.b, 1, 2, given.s))
-				fill(again[k])
-				again[k] = want[k]
-				if !equalLists(again, want) {
-					t.Errorf("slices of the result of %s of %v share memory", c.name, given)
+			for _, numbers := range fewNumbers {
+				want := slicesOf(c.call(given.a, given.b, numbers[0], numbers[1], given.s))
+				for k := range want {
+					again := slicesOf(c.call(given.a, given.b, numbers[0], numbers[1], given.s))
+					fill(again[k])
+					again[k] = want[k]
+					if !equalLists(again, want) {
+						t.Errorf("slices of the result of %s of %v %v share memory", c.name, given, numbers)
+					}
 				}
 			}
 		}
