@@ -14,7 +14,7 @@ type guest struct {
 	coat   int
 }
 
-// chain is a chain told from its least guest on, whom the others follow in turn.
+// chain is a chain told from one guest on, whom the others follow in turn.
 type chain struct {
 	guest
 	others []guest
@@ -34,17 +34,7 @@ type fraction struct {
 
 // IsExchange reports whether a list of any numbers is an exchange.
 func IsExchange(list []int) bool {
-	if !isGuestCount(len(list)) {
-		return false
-	}
-	var seen [MaxGuests]bool
-	for _, coat := range list {
-		if !isGuest(coat, len(list)) || seen[coat] {
-			return false
-		}
-		seen[coat] = true
-	}
-	return true
+	return isGuestCount(len(list)) && areDifferent(list, len(list))
 }
 
 // OwnCoats returns the guests who get their own coats, increasing.
@@ -272,6 +262,18 @@ func isGuest(number int, guests int) bool {
 	return number >= 0 && number < guests
 }
 
+// areDifferent reports whether the numbers of a list are different ones of so many guests.
+func areDifferent(list []int, guests int) bool {
+	var seen guestSet
+	for _, number := range list {
+		if !isGuest(number, guests) || seen.has(number) {
+			return false
+		}
+		seen = seen.with(number)
+	}
+	return true
+}
+
 // hasOwn reports whether any guest of an exchange gets the own coat.
 func hasOwn(list []int) bool {
 	for i, coat := range list {
@@ -295,7 +297,7 @@ func chainFrom(list []int, first int) chain {
 	return c
 }
 
-// chainsIn returns the chains of an exchange in the order of their least guests.
+// chainsIn returns the chains of an exchange, each from its least guest on, in the order of these.
 func chainsIn(list []int) []chain {
 	var seen [MaxGuests]bool
 	var chains []chain
@@ -321,7 +323,7 @@ func eachChain[T any](list []int, tell func(chain) T) []T {
 	return told
 }
 
-// numbers returns the guests of a chain from its least one on.
+// numbers returns the guests of a chain in turn, first the one from whom on it is told.
 func (c chain) numbers() []int {
 	numbers := []int{c.number}
 	for _, g := range c.others {

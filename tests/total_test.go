@@ -132,8 +132,30 @@ func seatCalls() []anyCall {
 	}
 }
 
+// drawerCalls are the calls of all functions of chapter 6, with plans of two guests.
+func drawerCalls() []anyCall {
+	return []anyCall{
+		{"OpenedBy", func(a, b []int, i, j int, s string) []any { return results(impl.OpenedBy(a, i, j)) }},
+		{"FindersOf", func(a, b []int, i, j int, s string) []any { return results(impl.FindersOf(a, i)) }},
+		{"DoAllFind", func(a, b []int, i, j int, s string) []any { return results(impl.DoAllFind(a, i)) }},
+		{"TriesToFind", func(a, b []int, i, j int, s string) []any { return results(impl.TriesToFind(a)) }},
+		{"CountAllFind", func(a, b []int, i, j int, s string) []any { return results(impl.CountAllFind(i, j)) }},
+		{"ChanceAllFind", func(a, b []int, i, j int, s string) []any { return results(impl.ChanceAllFind(i, j)) }},
+		{"ChanceByLuck", func(a, b []int, i, j int, s string) []any { return results(impl.ChanceByLuck(i, j)) }},
+		{"CountFinders", func(a, b []int, i, j int, s string) []any { return results(impl.CountFinders(i, j, j)) }},
+		{"TriesForChance", func(a, b []int, i, j int, s string) []any { return results(impl.TriesForChance(i, j, j)) }},
+		{"FirstLosing", func(a, b []int, i, j int, s string) []any { return results(impl.FirstLosing(i, j)) }},
+		{"BestSwap", func(a, b []int, i, j int, s string) []any { return results(impl.BestSwap(a)) }},
+		{"IsDrawerPlan", func(a, b []int, i, j int, s string) []any { return results(impl.IsDrawerPlan(i, [][]int{a, b})) }},
+		{"ChainPlan", func(a, b []int, i, j int, s string) []any { return results(impl.ChainPlan(a, i)) }},
+		{"PlanFinders", func(a, b []int, i, j int, s string) []any { return results(impl.PlanFinders(a, [][]int{b, a})) }},
+		{"CountPlanWins", func(a, b []int, i, j int, s string) []any { return results(impl.CountPlanWins(2, [][]int{a, b})) }},
+		{"ShiftDrawers", func(a, b []int, i, j int, s string) []any { return results(impl.ShiftDrawers(a, i)) }},
+	}
+}
+
 func allCalls() []anyCall {
-	return slices.Concat(coatCalls(), giftCalls(), boardCalls(), tableCalls(), seatCalls())
+	return slices.Concat(coatCalls(), giftCalls(), boardCalls(), tableCalls(), seatCalls(), drawerCalls())
 }
 
 // listsAndText are what a call gets as its first list, as its second one and as its text.
@@ -234,6 +256,8 @@ func TestNoCallOfThreeNumbersPanics(t *testing.T) {
 			{"ChanceOwnSeat", func(a, b []int, i, j int, s string) []any { return results(impl.ChanceOwnSeat(i, j, k)) }},
 			{"CountDisplaced", func(a, b []int, i, j int, s string) []any { return results(impl.CountDisplaced(i, j, k)) }},
 			{"ChanceDisplaced", func(a, b []int, i, j int, s string) []any { return results(impl.ChanceDisplaced(i, j, k)) }},
+			{"CountFinders", func(a, b []int, i, j int, s string) []any { return results(impl.CountFinders(i, j, k)) }},
+			{"TriesForChance", func(a, b []int, i, j int, s string) []any { return results(impl.TriesForChance(i, j, k)) }},
 		} {
 			for _, i := range anyNumbers {
 				for _, j := range anyNumbers {
@@ -327,6 +351,82 @@ func TestResultsShareNoMemory(t *testing.T) {
 					if !equalLists(again, want) {
 						t.Errorf("slices of the result of %s of %v %v share memory", c.name, given, numbers)
 					}
+				}
+			}
+		}
+	}
+}
+
+// planCall is a call with a plan, and with an exchange or the number of guests.
+type planCall struct {
+	name string
+	call func(guests int, list []int, plan [][]int) []any
+}
+
+func planCalls() []planCall {
+	return []planCall{
+		{"IsDrawerPlan", func(guests int, list []int, plan [][]int) []any { return results(impl.IsDrawerPlan(guests, plan)) }},
+		{"PlanFinders", func(guests int, list []int, plan [][]int) []any { return results(impl.PlanFinders(list, plan)) }},
+		{"CountPlanWins", func(guests int, list []int, plan [][]int) []any { return results(impl.CountPlanWins(guests, plan)) }},
+	}
+}
+
+// roomyPlan returns a plan at the beginning of an array of lists, which are at the beginnings of arrays themselves, and all of these.
+func roomyPlan(plan [][]int, behind int) (part [][]int, whole [][]int) {
+	for _, drawers := range plan {
+		short, long := roomy(drawers, behind)
+		part, whole = append(part, short), append(whole, long)
+	}
+	part = append(part, []int{behind}, []int{behind + 1})
+	return part[:len(plan)], whole
+}
+
+// TestNoPlanCallPanics has lists that are exchanges or none, as drawers and as what is in the drawers.
+func TestNoPlanCallPanics(t *testing.T) {
+	var plans [][][]int
+	for guests := 1; guests <= 9; guests++ {
+		plans = append(plans, patternPlans(guests)...)
+		plans = append(plans, noPlans(guests)...)
+	}
+	for _, list := range anyLists() {
+		plans = append(plans, [][]int{list}, [][]int{{0}, list}, slices.Repeat([][]int{list}, len(list)))
+	}
+	for _, p := range planCalls() {
+		c := anyCall{p.name, nil}
+		for _, plan := range plans {
+			for _, guests := range append([]int{5, 6, 9}, anyNumbers...) {
+				c.call = func(a, b []int, i, j int, s string) []any {
+					return p.call(guests, inOrder(max(0, min(guests, 40))), plan)
+				}
+				mustBeZero(t, c.name, tryCall(t, c, nil, nil, guests, len(plan), ""))
+			}
+			for _, list := range [][]int{nil, {1}, {0, 0}, {math.MaxInt, math.MinInt}, make([]int, len(plan)), slices.Repeat([]int{-1}, len(plan)), inOrder(len(plan) + 1)[1:]} {
+				c.call = func(a, b []int, i, j int, s string) []any { return p.call(len(plan), list, plan) }
+				mustBeZero(t, c.name, tryCall(t, c, list, nil, 0, 0, ""))
+			}
+		}
+	}
+}
+
+// TestPlanCallsKeepArguments looks at a plan and the memory behind it and behind its lists, and makes the same call with other memory there.
+func TestPlanCallsKeepArguments(t *testing.T) {
+	for _, c := range planCalls() {
+		for guests := 1; guests <= 7; guests++ {
+			for _, given := range append(patternPlans(guests), noPlans(guests)...) {
+				list := backwards(guests)
+				var texts []string
+				for _, behind := range []int{0, guests - 1, 90} {
+					plan, whole := roomyPlan(given, behind)
+					before := fmt.Sprint(whole, plan[:cap(plan)])
+					got := c.call(guests, list, plan)
+					texts = append(texts, fmt.Sprint(got))
+					overwrite(got)
+					if fmt.Sprint(whole, plan[:cap(plan)]) != before || !slices.Equal(list, backwards(guests)) {
+						t.Errorf("%s writes into %v, or gives out its memory", c.name, given)
+					}
+				}
+				if texts[0] != texts[1] || texts[0] != texts[2] {
+					t.Errorf("%s of %v with other memory behind: %v", c.name, given, texts)
 				}
 			}
 		}
