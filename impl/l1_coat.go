@@ -213,11 +213,7 @@ func TimesToRight(list []int) (int, bool) {
 	if !IsExchange(list) {
 		return 0, false
 	}
-	times := 1
-	for _, length := range eachChain(list, chain.length) {
-		times = times / commonDivisor(times, length) * length
-	}
-	return times, true
+	return timesOf(eachChain(list, chain.length)), true
 }
 
 // ExchangeText returns the numbers with , between them.
@@ -335,6 +331,24 @@ func (c chain) numbers() []int {
 // length returns how many guests a chain has.
 func (c chain) length() int {
 	return 1 + len(c.others)
+}
+
+// addChain returns a list with one chain more behind it, of so many guests, each of whom gets the coat of the next one.
+func addChain(list []int, length int) []int {
+	first := len(list)
+	for next := first + 1; next < first+length; next++ {
+		list = append(list, next)
+	}
+	return append(list, first)
+}
+
+// timesOf returns the least number of times, at least 1, behind which chains of some lengths are all right.
+func timesOf(lengths []int) int {
+	times := 1
+	for _, length := range lengths {
+		times = times / commonDivisor(times, length) * length
+	}
+	return times
 }
 
 // canTake reports whether a guest may take a coat, one that is there and not the own one.

@@ -154,8 +154,31 @@ func drawerCalls() []anyCall {
 	}
 }
 
+// chainCalls are the calls of all functions of chapter 7.
+func chainCalls() []anyCall {
+	return []anyCall{
+		{"TypeOf", func(a, b []int, i, j int, s string) []any { return results(impl.TypeOf(a)) }},
+		{"CountType", func(a, b []int, i, j int, s string) []any { return results(impl.CountType(a)) }},
+		{"TypesOf", func(a, b []int, i, j int, s string) []any { return results(impl.TypesOf(i)) }},
+		{"FirstOfType", func(a, b []int, i, j int, s string) []any { return results(impl.FirstOfType(a)) }},
+		{"CountByChains", func(a, b []int, i, j int, s string) []any { return results(impl.CountByChains(i, j)) }},
+		{"CountLongest", func(a, b []int, i, j int, s string) []any { return results(impl.CountLongest(i, j)) }},
+		{"CountShortest", func(a, b []int, i, j int, s string) []any { return results(impl.CountShortest(i, j)) }},
+		{"MeanChains", func(a, b []int, i, j int, s string) []any { return results(impl.MeanChains(i)) }},
+		{"MeanOfLength", func(a, b []int, i, j int, s string) []any { return results(impl.MeanOfLength(i, j)) }},
+		{"ChanceLongest", func(a, b []int, i, j int, s string) []any { return results(impl.ChanceLongest(i, j)) }},
+		{"CountPairsAlone", func(a, b []int, i, j int, s string) []any { return results(impl.CountPairsAlone(i)) }},
+		{"TwiceType", func(a, b []int, i, j int, s string) []any { return results(impl.TwiceType(a)) }},
+		{"CountRoots", func(a, b []int, i, j int, s string) []any { return results(impl.CountRoots(a)) }},
+		{"FirstRoot", func(a, b []int, i, j int, s string) []any { return results(impl.FirstRoot(a)) }},
+		{"TimesOfType", func(a, b []int, i, j int, s string) []any { return results(impl.TimesOfType(a)) }},
+		{"CountByTimes", func(a, b []int, i, j int, s string) []any { return results(impl.CountByTimes(i, j)) }},
+		{"GreatestTimes", func(a, b []int, i, j int, s string) []any { return results(impl.GreatestTimes(i)) }},
+	}
+}
+
 func allCalls() []anyCall {
-	return slices.Concat(coatCalls(), giftCalls(), boardCalls(), tableCalls(), seatCalls(), drawerCalls())
+	return slices.Concat(coatCalls(), giftCalls(), boardCalls(), tableCalls(), seatCalls(), drawerCalls(), chainCalls())
 }
 
 // listsAndText are what a call gets as its first list, as its second one and as its text.
@@ -180,14 +203,17 @@ func anyListsAndTexts() []listsAndText {
 	return append(all, listsAndText{[]int{1, 0, 2}, nil, "##./.##/#.#"}, listsAndText{[]int{2, 0, 1}, nil, "##./.##/#.#"}, listsAndText{[]int{1, 0}, nil, "##./.##/#.#"})
 }
 
-// anyLists are exchanges, families and tables, and lists that are none of these.
+// anyLists are exchanges, families, tables and types, and lists that are none of these.
 func anyLists() [][]int {
-	return append(slices.Concat(noExchanges, noFamilies, noTables(), longTables), []int{0}, []int{0, 1}, []int{1, 0}, []int{1, 2, 0}, []int{1, 2, 0, 3}, []int{3, 2, 1, 0},
+	return append(slices.Concat(noExchanges, noFamilies, noTables(), longTables, noTypes, someTypes), []int{0}, []int{0, 1}, []int{1, 0}, []int{1, 2, 0}, []int{1, 2, 0, 3}, []int{3, 2, 1, 0},
 		longChains, inOrder(12), backwards(12), []int{1, 0, 3, 2, 5, 4, 7, 6, 9, 8, 11, 10},
 		[]int{0, 0, 1, 1}, []int{0, 0, 1}, []int{0, 1, 0, 2, 1}, []int{0, 0, 0, 0, 1, 1, 1, 1}, inOrder(9), make([]int, 9),
 		[]int{0, 2, 1, 3}, []int{0, 2, 1, 4, 3, 5}, []int{5, 2, 0, 1, 3, 4}, inOrder(8), []int{0, 2, 1, 3, 4, 6, 5, 7}, []int{7, 5, 3, 1, 0, 2, 4, 6}, inOrder(10),
 		[]int{3, 0, 0}, []int{6, 5, 4, 0})
 }
+
+// someTypes are types of one chain, of pairs and of single guests alone, and of chains of several lengths.
+var someTypes = [][]int{{4}, {12}, {7}, {2, 1}, {2, 1, 1}, {2, 2}, {4, 3, 2, 2, 1}, {5, 4, 3}, {6, 6}, {2, 2, 2, 2, 2, 2}, slices.Repeat([]int{1}, 7), slices.Repeat([]int{1}, 12)}
 
 var anyNumbers = []int{0, 1, 2, 3, 4, 7, 8, 11, 12, 13, 44, 176214840, 176214841, -1, -12, 1 << 31, 1 << 32, math.MaxInt, math.MinInt, math.MaxInt - 1}
 
