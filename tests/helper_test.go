@@ -4,6 +4,8 @@ import (
 	"slices"
 	"strings"
 	"testing"
+
+	"loop.example/g01315/impl"
 )
 
 // exchangesOf returns all exchanges of so many guests in lexicographic order, by no function of the program.
@@ -149,6 +151,8 @@ func isZero(result any) bool {
 		return len(r) == 0
 	case [][]int:
 		return len(r) == 0
+	case impl.HatPlan:
+		return r.Colours == 0 && len(r.Guesses) == 0
 	}
 	return result == false
 }

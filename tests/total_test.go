@@ -177,8 +177,21 @@ func chainCalls() []anyCall {
 	}
 }
 
+// hatCalls are the calls of those functions of chapter 8 that take no hat plan.
+func hatCalls() []anyCall {
+	return []anyCall{
+		{"SumPlan", func(a, b []int, i, j int, s string) []any { return results(impl.SumPlan(i, j)) }},
+		{"SamePlan", func(a, b []int, i, j int, s string) []any { return results(impl.SamePlan(i, j, j-1)) }},
+		{"BestLeast", func(a, b []int, i, j int, s string) []any { return results(impl.BestLeast(i, j)) }},
+		{"RowGuesses", func(a, b []int, i, j int, s string) []any { return results(impl.RowGuesses(i, s)) }},
+		{"RightInRow", func(a, b []int, i, j int, s string) []any { return results(impl.RightInRow(i, s)) }},
+		{"HeardInRow", func(a, b []int, i, j int, s string) []any { return results(impl.HeardInRow(i, j, s, s)) }},
+		{"ParseHatPlan", func(a, b []int, i, j int, s string) []any { return results(impl.ParseHatPlan(s)) }},
+	}
+}
+
 func allCalls() []anyCall {
-	return slices.Concat(coatCalls(), giftCalls(), boardCalls(), tableCalls(), seatCalls(), drawerCalls(), chainCalls())
+	return slices.Concat(coatCalls(), giftCalls(), boardCalls(), tableCalls(), seatCalls(), drawerCalls(), chainCalls(), hatCalls())
 }
 
 // listsAndText are what a call gets as its first list, as its second one and as its text.
@@ -284,6 +297,7 @@ func TestNoCallOfThreeNumbersPanics(t *testing.T) {
 			{"ChanceDisplaced", func(a, b []int, i, j int, s string) []any { return results(impl.ChanceDisplaced(i, j, k)) }},
 			{"CountFinders", func(a, b []int, i, j int, s string) []any { return results(impl.CountFinders(i, j, k)) }},
 			{"TriesForChance", func(a, b []int, i, j int, s string) []any { return results(impl.TriesForChance(i, j, k)) }},
+			{"SamePlan", func(a, b []int, i, j int, s string) []any { return results(impl.SamePlan(i, j, k)) }},
 		} {
 			for _, i := range anyNumbers {
 				for _, j := range anyNumbers {
@@ -312,6 +326,18 @@ func roomy(list []int, behind int) (part []int, whole []int) {
 func overwrite(got []any) {
 	for _, list := range slicesOf(got) {
 		fill(list)
+	}
+	for _, r := range got {
+		if p, is := r.(impl.HatPlan); is {
+			fillTexts(p.Guesses)
+		}
+	}
+}
+
+func fillTexts(texts []string) {
+	texts = texts[:cap(texts)]
+	for k := range texts {
+		texts[k] = "written over"
 	}
 }
 
