@@ -221,24 +221,14 @@ func ExchangeText(list []int) (string, bool) {
 	if !IsExchange(list) {
 		return "", false
 	}
-	words := make([]string, len(list))
-	for i, coat := range list {
-		words[i] = strconv.Itoa(coat)
-	}
-	return strings.Join(words, ","), true
+	return numbersText(list, ","), true
 }
 
 // ParseExchange returns the exchange with an ExchangeText. It fails if there is none.
 func ParseExchange(s string) ([]int, bool) {
-	// One word more than there may be is enough to see that a text is too long.
-	words := strings.SplitN(s, ",", MaxGuests+1)
-	list := make([]int, len(words))
-	for i, word := range words {
-		coat, err := strconv.Atoi(word)
-		if err != nil {
-			return nil, false
-		}
-		list[i] = coat
+	list, ok := numbersIn(s, ",", MaxGuests)
+	if !ok {
+		return nil, false
 	}
 	// Signs and superfluous zeros are read as numbers, too, but are in no ExchangeText.
 	text, ok := ExchangeText(list)
@@ -246,6 +236,33 @@ func ParseExchange(s string) ([]int, bool) {
 		return nil, false
 	}
 	return list, true
+}
+
+// numbersText returns numbers with a sign between them.
+func numbersText(numbers []int, between string) string {
+	words := make([]string, len(numbers))
+	for i, number := range numbers {
+		words[i] = strconv.Itoa(number)
+	}
+	return strings.Join(words, between)
+}
+
+// numbersIn reads a text of at most so many numbers with a sign between them. It fails at more numbers, and at other words.
+func numbersIn(text string, between string, most int) ([]int, bool) {
+	// One word more than there may be is enough to see that a text is too long.
+	words := strings.SplitN(text, between, most+1)
+	if len(words) > most {
+		return nil, false
+	}
+	numbers := make([]int, len(words))
+	for i, word := range words {
+		number, err := strconv.Atoi(word)
+		if err != nil {
+			return nil, false
+		}
+		numbers[i] = number
+	}
+	return numbers, true
 }
 
 // isGuestCount reports whether there may be so many guests.

@@ -153,6 +153,8 @@ func isZero(result any) bool {
 		return len(r) == 0
 	case impl.HatPlan:
 		return r.Colours == 0 && len(r.Guesses) == 0
+	case impl.Puzzle:
+		return r.Guests == 0 && len(r.Clues) == 0
 	}
 	return result == false
 }

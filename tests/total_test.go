@@ -190,8 +190,20 @@ func hatCalls() []anyCall {
 	}
 }
 
+// puzzleNumberCalls are the calls of those functions of chapter 9 that take no puzzle.
+func puzzleNumberCalls() []anyCall {
+	return []anyCall{
+		{"IsClue", func(a, b []int, i, j int, s string) []any {
+			return results(impl.IsClue(i, impl.Clue{Kind: j, A: i - 1}))
+		}},
+		{"DoesFit", func(a, b []int, i, j int, s string) []any { return results(impl.DoesFit(impl.Clue{Kind: i, A: j}, a)) }},
+		{"MakePuzzle", func(a, b []int, i, j int, s string) []any { return results(impl.MakePuzzle(a, i, j)) }},
+		{"ParsePuzzle", func(a, b []int, i, j int, s string) []any { return results(impl.ParsePuzzle(s)) }},
+	}
+}
+
 func allCalls() []anyCall {
-	return slices.Concat(coatCalls(), giftCalls(), boardCalls(), tableCalls(), seatCalls(), drawerCalls(), chainCalls(), hatCalls())
+	return slices.Concat(coatCalls(), giftCalls(), boardCalls(), tableCalls(), seatCalls(), drawerCalls(), chainCalls(), hatCalls(), puzzleNumberCalls())
 }
 
 // listsAndText are what a call gets as its first list, as its second one and as its text.
@@ -328,9 +340,19 @@ func overwrite(got []any) {
 		fill(list)
 	}
 	for _, r := range got {
-		if p, is := r.(impl.HatPlan); is {
+		switch p := r.(type) {
+		case impl.HatPlan:
 			fillTexts(p.Guesses)
+		case impl.Puzzle:
+			fillClues(p.Clues)
 		}
+	}
+}
+
+func fillClues(clues []impl.Clue) {
+	clues = clues[:cap(clues)]
+	for k := range clues {
+		clues[k] = impl.Clue{Kind: -77, A: -77, B: -77}
 	}
 }
 
