@@ -151,10 +151,14 @@ func isZero(result any) bool {
 		return len(r) == 0
 	case [][]int:
 		return len(r) == 0
+	case []string:
+		return len(r) == 0
 	case impl.HatPlan:
 		return r.Colours == 0 && len(r.Guesses) == 0
 	case impl.Puzzle:
 		return r.Guests == 0 && len(r.Clues) == 0
+	case impl.Desk:
+		return len(r.Coats) == 0 && r.Board == ""
 	}
 	return result == false
 }

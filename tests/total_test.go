@@ -202,8 +202,22 @@ func puzzleNumberCalls() []anyCall {
 	}
 }
 
+// consoleCalls are the calls of all functions of chapter 10, with desks of the first list and the text, and with a line that has an effect.
+func consoleCalls() []anyCall {
+	return []anyCall{
+		{"FirstDesk", func(a, b []int, i, j int, s string) []any { return results(impl.FirstDesk()) }},
+		{"IsDesk", func(a, b []int, i, j int, s string) []any { return results(impl.IsDesk(impl.Desk{Coats: a, Board: s})) }},
+		{"DeskLine", func(a, b []int, i, j int, s string) []any {
+			return results(impl.DeskLine(impl.Desk{Coats: a, Board: s}, fmt.Sprint("swap ", i, " ", j)))
+		}},
+		{"RunScript", func(a, b []int, i, j int, s string) []any { return results(impl.RunScript(s)) }},
+		{"DeskAfter", func(a, b []int, i, j int, s string) []any { return results(impl.DeskAfter(s)) }},
+		{"FailedLines", func(a, b []int, i, j int, s string) []any { return results(impl.FailedLines(s)) }},
+	}
+}
+
 func allCalls() []anyCall {
-	return slices.Concat(coatCalls(), giftCalls(), boardCalls(), tableCalls(), seatCalls(), drawerCalls(), chainCalls(), hatCalls(), puzzleNumberCalls())
+	return slices.Concat(coatCalls(), giftCalls(), boardCalls(), tableCalls(), seatCalls(), drawerCalls(), chainCalls(), hatCalls(), puzzleNumberCalls(), consoleCalls())
 }
 
 // listsAndText are what a call gets as its first list, as its second one and as its text.
@@ -345,6 +359,8 @@ func overwrite(got []any) {
 			fillTexts(p.Guesses)
 		case impl.Puzzle:
 			fillClues(p.Clues)
+		case []string:
+			fillTexts(p)
 		}
 	}
 }
@@ -516,6 +532,8 @@ func slicesOf(got []any) [][]int {
 			all = append(all, x)
 		case [][]int:
 			all = append(all, x...)
+		case impl.Desk:
+			all = append(all, x.Coats)
 		}
 	}
 	return all
